@@ -9,6 +9,7 @@ import (
 
 	"trestle/api"
 	"trestle/pack"
+	"trestle/samples"
 )
 
 // P1.5: what was packed is read back by the calls of the same kinds.
@@ -50,25 +51,10 @@ func TestLongestIsReadBack(t *testing.T) {
 	}
 }
 
-// shortStrings are all strings of some bytes up to a length.
-func shortStrings(bytes string, most int) []string {
-	all := []string{""}
-	for from := 0; most > 0; most-- {
-		to := len(all)
-		for _, s := range all[from:to] {
-			for i := range len(bytes) {
-				all = append(all, s+bytes[i:i+1])
-			}
-		}
-		from = to
-	}
-	return all
-}
-
 // P1.5: a packed string tells its own end, so it does not begin another one.
 func TestNoPackedStringBeginsAnother(t *testing.T) {
 	var packed []string
-	for _, s := range append(shortStrings("01,:", 4), strings.Repeat("1", 11), strings.Repeat(",", 12), strings.Repeat("0", 101)) {
+	for _, s := range append(samples.Strings("01,:", 4), strings.Repeat("1", 11), strings.Repeat(",", 12), strings.Repeat("0", 101)) {
 		packed = append(packed, pack.Text(s))
 	}
 	for _, n := range []int{0, 1, -1, 10, 100, 1234567890} {
@@ -180,11 +166,11 @@ func checkCalls(t *testing.T, data string) {
 
 // P1.2, P1.3, P1.4: all short inputs over the bytes that matter, alone and packed once more, so that Num and List meet what Text takes.
 func TestAllShortInputs(t *testing.T) {
-	for _, s := range shortStrings("012:,-a", 5) {
+	for _, s := range samples.Strings("012:,-a", 5) {
 		checkCalls(t, s)
 		checkCalls(t, pack.Text(s)+"1")
 	}
-	for _, s := range shortStrings("01:,", 7) {
+	for _, s := range samples.Strings("01:,", 7) {
 		checkCalls(t, s)
 	}
 }

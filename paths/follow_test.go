@@ -9,6 +9,7 @@ import (
 
 	"trestle/api"
 	"trestle/paths"
+	"trestle/samples"
 )
 
 // isValid says by other means than Check whether a list of files is valid.
@@ -48,7 +49,7 @@ var fewPaths = []string{"a", "a-", "a/b", "a/b-", "a/b/c", "a0", "b", "b/a", "b/
 // P3.1: Check against another way to say what is valid.
 func TestCheckAgainstWords(t *testing.T) {
 	var lists [][]api.File
-	for _, s := range shortStrings("012345678", 3) {
+	for _, s := range samples.Strings("012345678", 3) {
 		var files []api.File
 		for i := range s {
 			files = append(files, api.File{Path: fewPaths[s[i]-'0']})

@@ -7,22 +7,8 @@ import (
 
 	"trestle/api"
 	"trestle/paths"
+	"trestle/samples"
 )
-
-// shortStrings are all strings of some bytes up to a length.
-func shortStrings(bytes string, most int) []string {
-	all := []string{""}
-	for from := 0; most > 0; most-- {
-		to := len(all)
-		for _, s := range all[from:to] {
-			for i := range len(bytes) {
-				all = append(all, s+bytes[i:i+1])
-			}
-		}
-		from = to
-	}
-	return all
-}
 
 func wantErr(t *testing.T, what string, got, want api.Errno) {
 	t.Helper()
@@ -67,7 +53,7 @@ func TestPathBytes(t *testing.T) {
 func TestShortPaths(t *testing.T) {
 	part := `(?:[!-\-0-~]|\.[!-\-0-~]|\.\.[!-.0-~]|[!-\-0-~][!-.0-~]+|\.[!-\-0-~][!-.0-~]+|\.\.[!-.0-~]+)`
 	form := regexp.MustCompile(`^` + part + `(?:/` + part + `)*$`)
-	for _, s := range shortStrings("a./ \x7f", 6) {
+	for _, s := range samples.Strings("a./ \x7f", 6) {
 		want := api.ErrPath
 		if form.MatchString(s) {
 			want = api.OK
