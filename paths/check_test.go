@@ -6,25 +6,10 @@ import (
 
 	"trestle/api"
 	"trestle/paths"
+	"trestle/samples"
 )
 
-// at is files with these Paths, each with data of its own.
-func at(ps ...string) []api.File {
-	var files []api.File
-	for _, p := range ps {
-		files = append(files, api.File{Path: p, Data: "data of " + p})
-	}
-	return files
-}
-
-// numbered are n files `n10`, `n11` ...
-func numbered(n int) []api.File {
-	var files []api.File
-	for i := range n {
-		files = append(files, api.File{Path: "n" + string([]byte{byte('1' + i/10), byte('0' + i%10)}), Data: "d"})
-	}
-	return files
-}
+var at, numbered = samples.At, samples.Numbered
 
 func big(path string, n int) api.File {
 	return api.File{Path: path, Data: strings.Repeat("x", n)}

@@ -1,6 +1,8 @@
 // Package samples makes what the tests of several layers go through; no layer uses it.
 package samples
 
+import "trestle/api"
+
 // Strings are all strings of some bytes up to a length, the shorter ones first.
 func Strings(bytes string, most int) []string {
 	all := []string{""}
@@ -14,4 +16,22 @@ func Strings(bytes string, most int) []string {
 		from = to
 	}
 	return all
+}
+
+// At is files with these Paths, each with data of its own.
+func At(ps ...string) []api.File {
+	var files []api.File
+	for _, p := range ps {
+		files = append(files, api.File{Path: p, Data: "data of " + p})
+	}
+	return files
+}
+
+// Numbered are n files `n10`, `n11` ...
+func Numbered(n int) []api.File {
+	var files []api.File
+	for i := range n {
+		files = append(files, api.File{Path: "n" + string([]byte{byte('1' + i/10), byte('0' + i%10)}), Data: "d"})
+	}
+	return files
 }

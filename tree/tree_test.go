@@ -12,23 +12,7 @@ import (
 	"trestle/tree"
 )
 
-// at is files with these Paths, each with data of its own.
-func at(ps ...string) []api.File {
-	var files []api.File
-	for _, p := range ps {
-		files = append(files, api.File{Path: p, Data: "data of " + p})
-	}
-	return files
-}
-
-// numbered are n files `n10`, `n11` ...
-func numbered(n int) []api.File {
-	var files []api.File
-	for i := range n {
-		files = append(files, api.File{Path: "n" + string([]byte{byte('1' + i/10), byte('0' + i%10)}), Data: "d"})
-	}
-	return files
-}
+var at, numbered = samples.At, samples.Numbered
 
 // file is the entry of a file.
 func file(name, data string) api.Entry {
